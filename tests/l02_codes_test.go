@@ -267,9 +267,11 @@ func TestOtherForms(t *testing.T) {
 		for _, data := range []string{"", "ab", "\xFF", strings.Repeat("a", impl.MaxBytes)} {
 			isDecoded(t, form, data, impl.Decoded{Code: impl.ErrForm})
 		}
-		isDecoded(t, form, strings.Repeat("a", impl.MaxBytes+1), impl.Decoded{Code: impl.ErrSize})
 		isNumber(t, "fault of form", form, impl.DecoderFault(impl.Decoder{Form: form}), impl.ErrForm)
 		isOut(t, "feed", impl.FeedDecoder(impl.Decoder{Form: form}, "ab"), impl.DecoderOut{Code: impl.ErrForm})
+		long := strings.Repeat("a", impl.MaxBytes+1)
+		isDecoded(t, form, long, impl.Decoded{Code: impl.ErrSize})
+		isOut(t, "feed", impl.FeedDecoder(impl.Decoder{Form: form}, long), impl.DecoderOut{Code: impl.ErrSize})
 		isOut(t, "end", impl.EndDecoder(impl.Decoder{Form: form}), impl.DecoderOut{Code: impl.ErrForm})
 	}
 }
@@ -540,6 +542,8 @@ func TestDecoderFaultOfGone(t *testing.T) {
 			wrong := impl.Decoder{Form: form, Held: "\xD8", Gone: gone}
 			isNumber(t, "fault of gone", gone, impl.DecoderFault(wrong), impl.ErrForm)
 			isOut(t, "feed", impl.FeedDecoder(wrong, "a"), impl.DecoderOut{Code: impl.ErrForm})
+			long := strings.Repeat("a", impl.MaxBytes+1)
+			isOut(t, "feed", impl.FeedDecoder(wrong, long), impl.DecoderOut{Code: impl.ErrSize})
 			isOut(t, "end", impl.EndDecoder(wrong), impl.DecoderOut{Code: impl.ErrForm})
 		}
 	}
@@ -554,9 +558,10 @@ func TestDecodersThatAreNotRight(t *testing.T) {
 		isNumber(t, "fault of form", wrong.Form, impl.DecoderFault(wrong), impl.ErrForm)
 		isOut(t, "feed", impl.FeedDecoder(wrong, ""), impl.DecoderOut{Code: impl.ErrForm})
 		isOut(t, "feed", impl.FeedDecoder(wrong, "abc"), impl.DecoderOut{Code: impl.ErrForm})
-		// ErrForm is named ahead of ErrSize there.
+		// Data that are too long are looked for ahead of the decoder.
 		long := strings.Repeat("a", impl.MaxBytes+1)
-		isOut(t, "feed", impl.FeedDecoder(wrong, long), impl.DecoderOut{Code: impl.ErrForm})
+		isOut(t, "feed", impl.FeedDecoder(wrong, long), impl.DecoderOut{Code: impl.ErrSize})
+		isOut(t, "feed", impl.FeedDecoder(wrong, long[1:]), impl.DecoderOut{Code: impl.ErrForm})
 		isOut(t, "end", impl.EndDecoder(wrong), impl.DecoderOut{Code: impl.ErrForm})
 	}
 }
