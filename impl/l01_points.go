@@ -192,7 +192,7 @@ func DigitOf(p int64) int64 {
 
 // Strokes: see chapter 2.
 func Strokes(p int64) int64 {
-	if Script(p) != 9 {
+	if !isIdeograph(p) {
 		return 0
 	}
 	// U+6000 is a multiple of 24: counted from 0 or from the first ideograph, p comes to the same.
@@ -244,6 +244,10 @@ func SpansOf(what int64) []Span {
 
 func isPoint(p int64) bool {
 	return p >= 0 && p <= MaxPoint && (p < 0xD800 || p > 0xDFFF)
+}
+
+func isIdeograph(p int64) bool {
+	return Script(p) == 9
 }
 
 // twinOf leads the points of scripts 3 and 4 to those of script 2 at the same places, since the three
