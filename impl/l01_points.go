@@ -230,10 +230,15 @@ func SpansOf(what int64) []Span {
 	if what < WhatCategory || what > WhatAge {
 		return nil
 	}
+	return spansBy(func(p int64) int64 { return propertyOf(what, p) })
+}
+
+// spansBy tells what a call says of the points 0 to LastKnown, as spans.
+func spansBy(tell func(p int64) int64) []Span {
 	var spans []Span
-	first, value := int64(0), propertyOf(what, 0)
+	first, value := int64(0), tell(0)
 	for p := int64(1); p <= LastKnown; p++ {
-		next := propertyOf(what, p)
+		next := tell(p)
 		if next != value {
 			spans = append(spans, Span{First: first, Last: p - 1, Value: value})
 			first, value = p, next
