@@ -117,14 +117,7 @@ func TextOf(points []int64) string {
 	if len(points) > MaxList {
 		return ""
 	}
-	text := make([]byte, 0, len(points))
-	for _, p := range points {
-		if !isPoint(p) {
-			p = Broken
-		}
-		text = utf8.AppendRune(text, rune(p))
-	}
-	return string(text)
+	return written(points)
 }
 
 // Category: see chapter 2.
@@ -245,6 +238,18 @@ func spansBy(tell func(p int64) int64) []Span {
 		}
 	}
 	return append(spans, Span{First: first, Last: LastKnown, Value: value})
+}
+
+// written is TextOf without a bound, for what is made within a call.
+func written(points []int64) string {
+	text := make([]byte, 0, len(points))
+	for _, p := range points {
+		if !isPoint(p) {
+			p = Broken
+		}
+		text = utf8.AppendRune(text, rune(p))
+	}
+	return string(text)
 }
 
 func isPoint(p int64) bool {

@@ -181,11 +181,11 @@ func plainDecodeSteps(data string) impl.LegacyOut {
 }
 
 func textWritten(points ...int64) string {
-	text := ""
+	var text strings.Builder
 	for _, p := range points {
-		text += writtenBytes(p)
+		text.WriteString(writtenBytes(p))
 	}
-	return text
+	return text.String()
 }
 
 func isLegacy(t *testing.T, what string, given string, got impl.LegacyOut, want impl.LegacyOut) {
