@@ -517,28 +517,59 @@ func TestSizesOfTailorings(t *testing.T) {
 	isTailoring(t, "&"+strings.Repeat("a", impl.MaxBytes-1), impl.TailoringRead{Code: impl.ErrSyntax, At: 1})
 }
 
-// TestGrownTailorings has entries that grow to three times the elements from rule to rule.
+// grownTailoring has rules of which each makes three times as many elements as the one ahead of it.
+func grownTailoring(count int) string {
+	var text strings.Builder
+	for n := range int64(count) {
+		text.WriteString("&" + strings.Repeat(textWritten('a'+n), 3) + "<" + textWritten('a'+n+1))
+	}
+	return text.String()
+}
+
+// TestGrownTailorings has entries of more elements than a right collator may have: nothing bounds them.
 func TestGrownTailorings(t *testing.T) {
-	letters, text, count := "abcdefghijklmnopqrstuvwxyz", "", 1
-	for at := range 6 {
-		text += "&" + strings.Repeat(letters[at:at+1], 3) + "<" + letters[at+1:at+2]
-		count *= 3
-		got := impl.ReadTailoring(text)
-		if got.Code != impl.OK || len(got.Entries) != at+1 || len(got.Entries[at].Elements) != count {
-			t.Errorf("%s: got the code %d and %d entries", text, got.Code, len(got.Entries))
+	table := tableOfElements()
+	for count := range 9 {
+		for _, behind := range []string{"", "&ebf<<g", "&abc<<<b=c", "&cc<a&aa<b&ab<c"} {
+			isTailoring(t, grownTailoring(count)+behind, plainTailoring(grownTailoring(count)+behind, table))
 		}
 	}
-	for at := 6; at < 25; at++ {
-		text += "&" + strings.Repeat(letters[at:at+1], 3) + "<" + letters[at+1:at+2]
+	want := 1
+	for count := 1; count <= 12; count++ {
+		want *= 3
+		got := impl.ReadTailoring(grownTailoring(count))
+		if got.Code != impl.OK || got.At != 0 || len(got.Entries) != count || len(got.Entries[count-1].Elements) != want {
+			t.Errorf("%d rules: got the code %d at %d and %d entries", count, got.Code, got.At, len(got.Entries))
+		}
 	}
-	isTailoring(t, text, impl.TailoringRead{Code: impl.ErrCount})
-	thousand := "&aa<b&bb<c&ccc<d&da<e&dde<f&fff<g&ggg<h&ha<i&hhi<j&j<k"
-	if got := impl.ReadTailoring(thousand); got.Code != impl.OK || len(got.Entries) != 10 || len(got.Entries[9].Elements) != 1000 {
-		t.Errorf("a thousand elements: got the code %d and %d entries", got.Code, len(got.Entries))
+	thousand := "&aa<b&bb<c&ccc<d&da<e&dde<f&fff<g&ggg<h&ha<i&hhi<j&ja<k"
+	isTailoring(t, thousand, plainTailoring(thousand, table))
+	again := impl.ReadTailoring(strings.Repeat("&aa<a", 20))
+	if again.Code != impl.OK || len(again.Entries) != 1 || len(again.Entries[0].Elements) != 1<<20 {
+		t.Errorf("20 times twice as many: got the code %d and %d entries", again.Code, len(again.Entries))
 	}
-	isTailoring(t, thousand+"&ja<k", impl.TailoringRead{Code: impl.ErrCount})
-	again := strings.Repeat("&aaa<a", impl.MaxBytes/6)
-	isTailoring(t, again, impl.TailoringRead{Code: impl.ErrCount})
+	wide := strings.Repeat("&ba<a", impl.MaxBytes/5)
+	isTailoring(t, wide, impl.TailoringRead{Entries: []impl.Entry{{Text: "a", Elements: append(slices.Repeat(elementsFrom("200098000/1/1"), 13107), elementsFrom("200110107/1/1")...)}}})
+}
+
+// TestOutgrownTailorings has entries that no memory holds, which are none of what is told, or all of it.
+func TestOutgrownTailorings(t *testing.T) {
+	grown := grownTailoring(25)
+	rows := "b:200097001/1/1"
+	text := grown + "&a<b"
+	for n := range int64(24) {
+		text += "<" + textWritten('c'+n)
+		rows += "|" + textWritten('c'+n) + ":" + strconv.FormatInt(200097002+n, 10) + "/1/1"
+	}
+	isTailoring(t, text, impl.TailoringRead{Entries: entriesFrom(rows)})
+	again := strings.Repeat("&aaa<a", impl.MaxBytes/6-1)
+	isTailoring(t, again+"&b<a", impl.TailoringRead{Entries: entriesFrom("a:200098001/1/1")})
+	isTailoring(t, again+"&b<", impl.TailoringRead{Code: impl.ErrSyntax, At: int64(len(again) + 3)})
+	isTailoring(t, again+"&\u1F00<b", impl.TailoringRead{Code: impl.ErrNone, At: int64(len(again) + 1)})
+	isTailoring(t, grown+tailoringOf(176), impl.TailoringRead{Code: impl.ErrCount})
+	isTailoring(t, again, impl.TailoringRead{Code: impl.ErrSize})
+	isTailoring(t, grown, impl.TailoringRead{Code: impl.ErrSize})
+	isTailoring(t, grown+tailoringOf(175), impl.TailoringRead{Code: impl.ErrSize})
 }
 
 func TestShortTailorings(t *testing.T) {
