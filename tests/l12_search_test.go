@@ -772,6 +772,19 @@ func TestSearchedAreNewMemory(t *testing.T) {
 	}
 }
 
+// haveEnded waits a while for goroutines that are about to end.
+func haveEnded(t *testing.T, before int) {
+	t.Helper()
+	after := runtime.NumGoroutine()
+	for wait := 0; wait < 100 && after > before; wait++ {
+		time.Sleep(10 * time.Millisecond)
+		after = runtime.NumGoroutine()
+	}
+	if after > before {
+		t.Errorf("%d goroutines were there, now %d", before, after)
+	}
+}
+
 // TestSearchersHaveEnded looks for goroutines that would go on behind their calls, whether they found
 // something or not.
 func TestSearchersHaveEnded(t *testing.T) {
@@ -786,14 +799,7 @@ func TestSearchersHaveEnded(t *testing.T) {
 		impl.BeginsWith(c, text, "c")
 		impl.FindFirst(c, text[:20], "c", 0)
 	}
-	after := runtime.NumGoroutine()
-	for wait := 0; wait < 100 && after > before; wait++ {
-		time.Sleep(10 * time.Millisecond)
-		after = runtime.NumGoroutine()
-	}
-	if after > before {
-		t.Errorf("%d goroutines were there, now %d", before, after)
-	}
+	haveEnded(t, before)
 }
 
 // TestSearchesAtOnce asks from many goroutines, whose answers may not mind each other.
