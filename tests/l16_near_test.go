@@ -860,16 +860,32 @@ func TestSoundsOfTexts(t *testing.T) {
 	})
 }
 
+// TestSoundSizes: a text of 200 characters has a sound, one of more is too long, as are 65537 bytes of one
+// character.
 func TestSoundSizes(t *testing.T) {
-	isSound(t, strings.Repeat("a", 65535)+"b", "a1000")
-	isSound(t, strings.Repeat("a", 65536), "a0000")
-	isSound(t, strings.Repeat("a", 65537), "")
-	isSound(t, strings.Repeat("1", 65535)+"b", "b0000")
-	isSound(t, strings.Repeat("1", 65536)+"b", "")
-	// What it folds to has more bytes than a text that is told.
-	isSound(t, "b"+strings.Repeat("\u0260", 32767)+"d", "b3000")
-	isSound(t, strings.Repeat("\u2408", 21845), "b0000")
-	isSound(t, strings.Repeat("\u2408\u2418", 10922), "b3131")
+	isSound(t, strings.Repeat("a", 199)+"b", "a1000")
+	isSound(t, strings.Repeat("a", 200), "a0000")
+	isSound(t, strings.Repeat("a", 201), "")
+	isSound(t, strings.Repeat("a", 65536), "")
+	isSound(t, strings.Repeat("1", 199)+"b", "b0000")
+	isSound(t, strings.Repeat("1", 200)+"b", "")
+	isSound(t, "b"+strings.Repeat("1", 200), "")
+	isSound(t, strings.Repeat("\xff", 199)+"b", "b0000")
+	isSound(t, strings.Repeat("\xff", 200)+"b", "")
+	// Characters are counted, not points, and not what the text folds to.
+	isSound(t, strings.Repeat("b\u1000", 200), "b0000")
+	isSound(t, strings.Repeat("b\u1000", 201), "")
+	isSound(t, "b"+strings.Repeat("\u0260", 198)+"d", "b3000")
+	isSound(t, strings.Repeat("\u2408\u2418", 100), "b3131")
+	isSound(t, strings.Repeat("\u2408\u2418", 100)+"b", "")
+	for _, marked := range []string{strings.Repeat("b\u1000", 200), strings.Repeat("\u0260", 200)} {
+		if count := len(charsPlainly(marked)); count != 200 {
+			t.Errorf("%d characters of a text that should have 200", count)
+		}
+	}
+	// One character of many points.
+	isSound(t, "b"+strings.Repeat("\u1000", 21845), "b0000")
+	isSound(t, "b"+strings.Repeat("\u1000", 21845)+"d", "")
 }
 
 func TestNearIsNewMemory(t *testing.T) {
